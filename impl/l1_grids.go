@@ -135,14 +135,19 @@ func (g grid) cells() iter.Seq2[place, byte] {
 	}
 }
 
+// cell returns the number of the cell at a place.
+func (g grid) cell(p place) int {
+	return p.row*g.columns + p.column
+}
+
 // at returns the letter at a place.
 func (g grid) at(p place) byte {
-	return g.letters[p.row*g.columns+p.column]
+	return g.letters[g.cell(p)]
 }
 
 // with returns the grid with another letter at a place.
 func (g grid) with(p place, letter byte) grid {
-	g.letters[p.row*g.columns+p.column] = letter
+	g.letters[g.cell(p)] = letter
 	return g
 }
 
