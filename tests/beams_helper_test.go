@@ -60,13 +60,19 @@ func follow(g []string, port int) followed {
 		}
 		beam.cells = append(beam.cells, (spot[0]-1)*m+spot[1]-1)
 		beam.sides = append(beam.sides, slices.Index([][2]int{{-1, 0}, {0, 1}, {1, 0}, {0, -1}}, [2]int{down, right}))
-		switch g[spot[0]-1][spot[1]-1] {
-		case 'r':
-			down, right = -right, -down
-		case 'f':
-			down, right = right, down
-		}
+		down, right = behind(g[spot[0]-1][spot[1]-1], down, right)
 	}
+}
+
+// behind returns the step behind a cell with a letter, for the step into it.
+func behind(letter byte, down, right int) (int, int) {
+	switch letter {
+	case 'r':
+		return -right, -down
+	case 'f':
+		return right, down
+	}
+	return down, right
 }
 
 func (f followed) length() int {

@@ -151,3 +151,19 @@ func wantNoNumber(t *testing.T, what string, got int, ok bool) {
 		t.Errorf("%s returned %d, %v instead of failing", what, got, ok)
 	}
 }
+
+// wantOwnMemory checks that a result stays when another one of the same call is overwritten, and comes again.
+func wantOwnMemory[T comparable](t *testing.T, call string, spoilt T, f func() ([]T, bool)) {
+	t.Helper()
+	first, ok := f()
+	kept := slices.Clone(first)
+	second, _ := f()
+	second = second[:cap(second)]
+	for at := range second {
+		second[at] = spoilt
+	}
+	third, again := f()
+	if !ok || !again || len(kept) == 0 || !slices.Equal(first, kept) || !slices.Equal(third, kept) {
+		t.Errorf("%s returned %v, which is %v with another result spoilt, and then %v", call, kept, first, third)
+	}
+}

@@ -534,17 +534,7 @@ func TestBeamsShareNoMemory(t *testing.T) {
 		"BeamSides": func() ([]int, bool) { return impl.BeamSides(g, 7) },
 		"BeamPairs": func() ([]int, bool) { return impl.BeamPairs(g) },
 	} {
-		first, ok := f()
-		must(t, ok, call, g)
-		kept := slices.Clone(first)
-		second, _ := f()
-		second = second[:cap(second)]
-		for at := range second {
-			second[at] = -7
-		}
-		wantNumbers(t, call+" with another result spoilt", first, true, kept...)
-		third, ok := f()
-		wantNumbers(t, call+" called again", third, ok, kept...)
+		wantOwnMemory(t, call, -7, f)
 	}
 	for port := range portsOf(g) {
 		impl.BeamEnd(g, port)
