@@ -307,9 +307,7 @@ func TestP68PlainTold(t *testing.T) {
 }
 
 // Promise 69: a pairing with a first grid has one grid at least, and two if another one with the mirrors of this exchanged has it too.
-// No grid with mirrors and at most 6 cells has the pairing of GridOther of it, so that two are never told so for them.
 func TestP69MakeMany(t *testing.T) {
-	others := 0
 	everyMaking(func(p ofSides, grids [][]string) {
 		first, made := impl.MakeFirst(p.n, p.m, p.pairs)
 		if made != (len(grids) > 0) {
@@ -324,14 +322,23 @@ func TestP69MakeMany(t *testing.T) {
 		}
 		other, ok := impl.GridOther(first)
 		must(t, ok, "GridOther", first)
-		if mirrorsOf(first) > 0 && slices.Equal(gridSides(t, other).pairs, p.pairs) {
-			others++
-			if many < 2 {
-				t.Errorf("%s is %d, but %q and %q have it", sidesName("MakeMany", p), many, first, other)
-			}
+		if mirrorsOf(first) > 0 && slices.Equal(gridSides(t, other).pairs, p.pairs) && many < 2 {
+			t.Errorf("%s is %d, but %q and %q have it", sidesName("MakeMany", p), many, first, other)
 		}
 	})
-	wantNumber(t, "the number of first grids with the pairing of GridOther", others, true, 0)
+}
+
+// No grid with mirrors and at most 6 cells has the pairing of GridOther of it, so that no pairing has two grids for this reason.
+func TestP69NoOthers(t *testing.T) {
+	for _, tried := range allTried() {
+		for _, g := range allGrids(tried.n, tried.m) {
+			other, ok := impl.GridOther(g)
+			must(t, ok, "GridOther", g)
+			if mirrorsOf(g) > 0 && slices.Equal(followedPairs(other), followedPairs(g)) {
+				t.Errorf("%q and %q have the same pairing", g, other)
+			}
+		}
+	}
 }
 
 // A pairing that each of some grids has is one of them all, and of no other grid.
