@@ -413,7 +413,7 @@ func wantNoCounts(t *testing.T, n, m int) {
 }
 
 func TestMakingOfMoreCells(t *testing.T) {
-	for _, sides := range sidesWithMore() {
+	for _, sides := range sidesWithMore(madeCells) {
 		n, m := sides[0], sides[1]
 		wantNoCounts(t, n, m)
 		wantNoMaking(t, n, m, followedPairs(emptyGrid(n, m)))

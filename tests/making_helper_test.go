@@ -103,11 +103,11 @@ func everyMaking(check func(p ofSides, grids [][]string)) {
 	}
 }
 
-// sidesWithMore returns numbers of rows and columns, from 1 to SideMax, with more than madeCells cells.
-func sidesWithMore() [][2]int {
+// sidesWithMore returns numbers of rows and columns, from 1 to SideMax, with more than so many cells.
+func sidesWithMore(cells int) [][2]int {
 	sides := [][2]int{}
 	everySides(func(n, m int) {
-		if n*m > madeCells {
+		if n*m > cells {
 			sides = append(sides, [2]int{n, m})
 		}
 	})
