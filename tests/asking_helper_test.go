@@ -156,16 +156,16 @@ func (a asked) turned() asked {
 	answers := noAnswers(a.ports())
 	for port, answer := range a.answers {
 		if answer >= 0 {
-			answers[a.turnedPort(port)] = a.turnedPort(answer)
+			answers[a.sides.turnedPort(port)] = a.sides.turnedPort(answer)
 		}
 	}
 	return hiddenOf(a.sides.m, a.sides.n).ask(answers)
 }
 
 // turnedPort returns what a port becomes when its grid is turned by a quarter to the right.
-func (a asked) turnedPort(port int) int {
-	spot := portSpots(a.sides.n, a.sides.m)[port]
-	return spotPort(a.sides.m, a.sides.n, spot[1], a.sides.n+1-spot[0])
+func (s hiddenSides) turnedPort(port int) int {
+	spot := portSpots(s.n, s.m)[port]
+	return spotPort(s.m, s.n, spot[1], s.n+1-spot[0])
 }
 
 // turnedTexts returns letters, and question marks among them, turned by a quarter to the right.

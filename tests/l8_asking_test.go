@@ -428,7 +428,7 @@ func TestAskingTurned(t *testing.T) {
 		turned := a.turned()
 		wantNumber(t, askName("turned, AskFit", a), turned.fit(t), true, a.fit(t))
 		for port := range a.ports() {
-			wantNumber(t, askName("turned, AskWorst", a, port), turned.worstOf(t, a.turnedPort(port)), true, a.worstOf(t, port))
+			wantNumber(t, askName("turned, AskWorst", a, port), turned.worstOf(t, a.sides.turnedPort(port)), true, a.worstOf(t, port))
 		}
 		sure, ok := impl.AskSure(a.sides.n, a.sides.m, a.answers)
 		turnedSure, too := impl.AskSure(turned.sides.n, turned.sides.m, turned.answers)
