@@ -178,6 +178,22 @@ func (g grid) other() grid {
 	return other
 }
 
+// beside returns the grid with another one to its right, and whether they fit.
+func (g grid) beside(h grid) (grid, bool) {
+	if g.rows != h.rows || !sideIn(g.columns+h.columns) {
+		return grid{}, false
+	}
+	return joinedGrid(g.rows, g.columns+h.columns, g, h, place{0, g.columns}), true
+}
+
+// under returns the grid with another one below it, and whether they fit.
+func (g grid) under(h grid) (grid, bool) {
+	if g.columns != h.columns || !sideIn(g.rows+h.rows) {
+		return grid{}, false
+	}
+	return joinedGrid(g.rows+h.rows, g.columns, g, h, place{g.rows, 0}), true
+}
+
 // part returns the grid of the rows from top to low and the columns from left to right, all of them in the grid.
 func (g grid) part(top, low, left, right int) grid {
 	part := grid{rows: low - top + 1, columns: right - left + 1}
@@ -227,6 +243,20 @@ func changedTexts(g []string, change func(grid) grid) ([]string, bool) {
 	return change(whole).texts(), true
 }
 
+// joinedTexts returns the texts of what a join makes of two grids, and whether it makes one.
+func joinedTexts(g, h []string, join func(first, second grid) (grid, bool)) ([]string, bool) {
+	first, ok := readGrid(g)
+	second, too := readGrid(h)
+	if !ok || !too {
+		return nil, false
+	}
+	whole, fit := join(first, second)
+	if !fit {
+		return nil, false
+	}
+	return whole.texts(), true
+}
+
 // GridIn reports whether a list is a grid.
 func GridIn(g []string) bool {
 	_, ok := readGrid(g)
@@ -250,22 +280,12 @@ func GridOther(g []string) ([]string, bool) {
 
 // GridBeside returns the grid of two grids with as many rows, the second one to the right, and true.
 func GridBeside(g []string, h []string) ([]string, bool) {
-	first, ok := readGrid(g)
-	second, too := readGrid(h)
-	if !ok || !too || first.rows != second.rows || !sideIn(first.columns+second.columns) {
-		return nil, false
-	}
-	return joinedGrid(first.rows, first.columns+second.columns, first, second, place{0, first.columns}).texts(), true
+	return joinedTexts(g, h, grid.beside)
 }
 
 // GridUnder returns the grid of two grids with as many columns, the second one below, and true.
 func GridUnder(g []string, h []string) ([]string, bool) {
-	first, ok := readGrid(g)
-	second, too := readGrid(h)
-	if !ok || !too || first.columns != second.columns || !sideIn(first.rows+second.rows) {
-		return nil, false
-	}
-	return joinedGrid(first.rows+second.rows, first.columns, first, second, place{first.rows, 0}).texts(), true
+	return joinedTexts(g, h, grid.under)
 }
 
 // GridPart returns the grid of the rows from one to another one and the columns from one to another one, all told and among them, and true.
